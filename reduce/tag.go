@@ -80,11 +80,12 @@ func newAlphabet(m api.Machine) *alphabet {
 			for kind := first; kind <= two; kind++ {
 				a.number(letter{kind, state, x})
 			}
-			if state == api.Stop {
-				a.system.Stops[a.number(letter{first, state, x})] = true
-			} else {
+			if state != api.Stop {
 				a.step(m, state, x)
+				continue
 			}
+			n := a.number(letter{first, state, x})
+			a.system.Stops[n] = true
 		}
 	}
 	return a
