@@ -304,3 +304,38 @@ func TestCounterHasNone(t *testing.T) {
 		}
 	}
 }
+
+// TestTwoRepeats cuts tapes into all shapes with two short repeats.
+func TestTwoRepeats(t *testing.T) {
+	r := rand.New(rand.NewSource(4))
+	found := map[bool]int{}
+	for i := 0; i < 4000 && found[true] < 20; i++ {
+		m := anyMachine(r)
+		a := 3 + r.Intn(40)
+		c, k, _ := tape.Run(m, api.Config{}, a)
+		length := c.Pos - c.From
+		if k < a || c.State == api.Stop || len(c.Cells) == 0 || length < len(c.Cells) || length > 12 {
+			continue
+		}
+		var word []int
+		for p := c.From; p < c.Pos; p++ {
+			word = append(word, tape.Read(c, p))
+		}
+		for cuts := range 4 * 4 * 4 * 4 {
+			w0, r0, w1, r1 := cuts%4, 1+cuts/4%4, cuts/16%4, 1+cuts/64
+			if w0+r0+w1+r1 > length {
+				continue
+			}
+			end := w0 + r0 + w1 + r1
+			s := api.Shape{State: c.State, First: 1, Words: [][]int{word[:w0], word[w0+r0 : w0+r0+w1], word[end:]}, Repeats: [][]int{word[w0 : w0+r0], word[w0+r0+w1 : end]}}
+			if mustCheck(t, m, a, s) {
+				different := !slices.Equal(s.Repeats[0], s.Repeats[1])
+				found[different]++
+				passes(t, m, a, s)
+			}
+		}
+	}
+	if found[true] < 5 || found[false] < 5 {
+		t.Error(found)
+	}
+}
